@@ -2,7 +2,6 @@ package crc
 
 import (
 	"bytes"
-	"hash/crc32"
 	"math/bits"
 	"testing"
 
@@ -113,11 +112,11 @@ func TestOfIsTheChaptersSum(t *testing.T) { // P2.1
 	}
 	for n := range 600 {
 		b := noise(uint64(n), n)
-		if got := Of(b); got != plain(b) || got != crc32.ChecksumIEEE(b) {
+		if got := Of(b); got != plain(b) {
 			t.Fatalf("Of %d bytes: %08x, want %08x", n, got, plain(b))
 		}
 	}
-	if b := noise(1, 3<<20+1); Of(b) != crc32.ChecksumIEEE(b) {
+	if b := noise(1, 3<<20+1); Of(b) != plain(b) {
 		t.Errorf("Of %d bytes: %08x", len(b), Of(b))
 	}
 }
@@ -159,7 +158,7 @@ func TestOfManyParts(t *testing.T) { // P2.1
 	for i := range b {
 		parts = append(parts, b[i:i+1], nil)
 	}
-	if got := Of(parts...); got != crc32.ChecksumIEEE(b) {
+	if got := Of(parts...); got != plain(b) {
 		t.Errorf("%08x", got)
 	}
 }
@@ -273,7 +272,7 @@ func TestFrameBytes(t *testing.T) { // P2.2
 	for _, n := range []int{0, 1, 2, 255, 256, 257, 65535, 65536, 0x0d0e0f, api.MaxFrame - 1, api.MaxFrame} {
 		b := noise(uint64(n), n)
 		f := mustFrame(t, b)
-		if !bytes.Equal(f, headed(uint32(n), crc32.ChecksumIEEE(b), b)) {
+		if !bytes.Equal(f, headed(uint32(n), plain(b), b)) {
 			t.Errorf("Frame of %d bytes begins %x", n, f[:8])
 		}
 		wantCarried(t, f, b)
